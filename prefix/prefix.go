@@ -22,7 +22,7 @@ func Prefix(code [][]bool) (bool, api.Errno) {
 		return false, err
 	}
 	for i, word := range code {
-		clashes := func(other []bool) bool { return begins(word, other) || begins(other, word) }
+		clashes := func(other []bool) bool { return Begins(word, other) || Begins(other, word) }
 		if slices.ContainsFunc(code[i+1:], clashes) {
 			return false, api.OK
 		}
@@ -56,7 +56,7 @@ func Read(code [][]bool, bits []bool) ([]int, api.Errno) {
 	}
 	var symbols []int
 	rest := bits
-	startsRest := func(word []bool) bool { return begins(word, rest) }
+	startsRest := func(word []bool) bool { return Begins(word, rest) }
 	for len(rest) > 0 {
 		// No word begins another one, so at most one word starts the rest: there is no choice to take back later.
 		symbol := slices.IndexFunc(code, startsRest)
@@ -84,7 +84,7 @@ func checkReadable(code [][]bool) api.Errno {
 	return api.OK
 }
 
-// begins tells whether the list begins with the word, or is it.
-func begins(word, list []bool) bool {
+// Begins tells whether the list begins with the word, or is it.
+func Begins(word, list []bool) bool {
 	return len(word) <= len(list) && slices.Equal(word, list[:len(word)])
 }
