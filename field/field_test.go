@@ -356,3 +356,27 @@ func TestListsStayAsTheyAre(t *testing.T) {
 		}
 	}
 }
+
+// TestWhatIsKnownToBeRight has the same of the sums that other packages ask for, which end at wrong numbers too.
+func TestWhatIsKnownToBeRight(t *testing.T) {
+	for a := range 16 {
+		for b := range 16 {
+			if got := Product(a, b); got != ownProduct(a, b) {
+				t.Errorf("Product of %d, %d: %d", a, b, got)
+			}
+			if got := SumAt([]int{3, a, 9}, b); got != ownAt([]int{3, a, 9}, b) {
+				t.Errorf("SumAt of 3, %d, 9 at %d: %d", a, b, got)
+			}
+		}
+		if got := Inverse(a); a != 0 && ownProduct(a, got) != 1 || a == 0 && got != 0 {
+			t.Errorf("Inverse of %d: %d", a, got)
+		}
+	}
+	for _, wrong := range wrongNumbers() {
+		for _, other := range append(someNumbers(), wrong) {
+			Product(wrong, other)
+			SumAt([]int{other, wrong}, wrong)
+		}
+		Inverse(wrong)
+	}
+}
